@@ -60,16 +60,24 @@ func TestUnmade(t *testing.T) {
 	}
 }
 
+// P7.7, P7.10: an other that no call made counts as one without rows, for Equal as for Changes.
 func TestUnmadeHandedIn(t *testing.T) {
 	for name, x := range unmade() {
+		tables, models := small(t)
+		for i := range tables {
+			for range 2 { // what it was held against makes nothing of it
+				alike(t, tables[i], x, models[i], model{})
+			}
+			holds(t, tables[i], models[i])
+			if x.Equal(tables[i]) || len(x.Changes(tables[i])) != 0 {
+				t.Errorf("%s and %s", name, show(models[i].rows()...))
+			}
+		}
 		made := of(t, rowA, rowB)
-		if made.Equal(x) || table.New().Equal(x) {
-			t.Errorf("%s: Equal", name)
+		if made.Equal(x) {
+			t.Errorf("%s: Equal of a table with rows", name)
 		}
 		if l := made.Changes(x); !slices.Equal(l, []string{"a", "b"}) {
-			t.Errorf("%s: Changes: %q", name, l)
-		}
-		if l := table.New().Changes(x); len(l) != 0 {
 			t.Errorf("%s: Changes: %q", name, l)
 		}
 		for y := range unmade() {
@@ -78,5 +86,38 @@ func TestUnmadeHandedIn(t *testing.T) {
 			}
 		}
 		has(t, made, rowA, rowB)
+	}
+}
+
+// However a table came to have no rows, it is like an other that no call made.
+func TestUnmadeAndNoRows(t *testing.T) {
+	deleted := of(t, rowA)
+	before := deleted.Snapshot()
+	deleted.Delete("a")
+	replaced := of(t, rowA, rowB)
+	replaced.Replace(api.Range{})
+	for way, none := range map[string]*table.Table{
+		"New": table.New(), "From": of(t), "Snapshot": table.New().Snapshot(),
+		"Delete": deleted, "Snapshot behind Delete": deleted.Snapshot(), "Replace": replaced,
+	} {
+		for name, x := range unmade() {
+			if !none.Equal(x) || len(none.Changes(x)) != 0 {
+				t.Errorf("%s, without rows by %s: Equal %v, Changes %q", name, way, none.Equal(x), none.Changes(x))
+			}
+			if x.Equal(none) || len(x.Changes(none)) != 0 {
+				t.Errorf("%s, against none by %s: Equal %v, Changes %q", name, way, x.Equal(none), x.Changes(none))
+			}
+			if before.Equal(x) || !slices.Equal(before.Changes(x), []string{"a"}) {
+				t.Errorf("%s: a snapshot that has its row still", name)
+			}
+		}
+		if e := none.Put(rowB); e != api.OK {
+			t.Fatalf("%s: Put: %d", way, e)
+		}
+		for name, x := range unmade() {
+			if none.Equal(x) || !slices.Equal(none.Changes(x), []string{"b"}) {
+				t.Errorf("%s, and a row again, behind %s", name, way)
+			}
+		}
 	}
 }
